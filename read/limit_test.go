@@ -272,7 +272,45 @@ func TestMaxBrackets(t *testing.T) {
 	errs(t, Pattern, strings.Repeat("(", 100)+"^)", api.ErrBad)
 }
 
-// P5.1: of two errors the one that is read first is told; what is whole is asked ahead of the token behind it; lex's errors are told ahead of all.
+// tooMuch are patterns alone beyond MaxParts, MaxDeep, or both, that end so that no "(" goes on with them.
+func tooMuch() []string {
+	return []string{
+		chain(12, "&") + "&X",
+		chain(8, ";") + ";-1",
+		chain(8, "|") + "|f(X)",
+		"(" + wide(13) + ")",
+		bracketed(90, chain(9, "&")),
+		wide(12) + "&b@met X",
+		`b;\+(` + wide(11) + `);X`,
+		`b;\+(` + chain(8, ";") + `);(c)`,
+		chain(8, ";") + "@during 1",
+		"b@ends(" + chain(8, "|") + ")",
+		strings.Repeat("a;(", 8) + "a" + strings.Repeat(")", 8),
+		chain(1000, ";") + ";X",
+	}
+}
+
+// P5.1: a pattern alone is whole where nothing is behind it: a token with which no pattern goes on is told ahead of its being too much, whatever that token is, and whatever is behind it.
+func TestBehindTooMuch(t *testing.T) {
+	for _, s := range tooMuch() {
+		errs(t, Pattern, "^"+s, api.ErrLimit)
+		errs(t, Pattern, " % remark\n ^"+s+" % remark", api.ErrLimit)
+		for _, x := range swaps() {
+			if strings.Contains(";&|", x) || x == "@" && !strings.Contains(s, "@") { // it goes on
+				errs(t, Pattern, s+" "+x+" ^)", api.ErrBad)
+				continue
+			}
+			for _, tail := range []string{"", " ", " b", " ; b", " )", " f(1,2,3,4,5)", strings.Repeat(" (", 200)} {
+				errs(t, Pattern, " "+s+" ^"+x+tail, api.ErrBad)
+			}
+		}
+		errs(t, Pattern, s+" & b ^b", api.ErrBad)
+		errs(t, Pattern, s+" & ^f(1,2,3,4,5) )", api.ErrLimit)
+		errs(t, Program, "a <- ^"+s+", within 1. )", api.ErrLimit)
+	}
+}
+
+// P5.1: of two errors the one that is read first is told; a term, a part, a guard, an item that is whole is asked ahead of the token behind it, a pattern alone where nothing is behind it; lex's errors are told ahead of all.
 func TestFirstError(t *testing.T) {
 	bad := "f(1,2,3,4,5)"
 	deep := chain(9, ";")
@@ -304,9 +342,9 @@ func TestFirstError(t *testing.T) {
 	errs(t, Program, strings.Repeat("a<-b,within 1.", 20)+strings.Repeat("a.", 30)+"^a. a <- b, within 1.", api.ErrLimit)
 	errs(t, Program, strings.Repeat("a.", 30)+"a :- b, b, b, ^b.", api.ErrLimit)
 	errs(t, Program, strings.Repeat("a.", 30)+"^"+bad+".", api.ErrLimit)
-	errs(t, Pattern, "^"+deep+" )", api.ErrLimit)
-	errs(t, Pattern, "^"+deep+" X", api.ErrLimit)
-	errs(t, Pattern, "^"+deep+"@met b @met b", api.ErrLimit)
+	errs(t, Pattern, deep+" ^)", api.ErrBad)
+	errs(t, Pattern, deep+" ^X", api.ErrBad)
+	errs(t, Pattern, deep+"@met b ^@met b", api.ErrBad)
 	errs(t, Pattern, deep+";^", api.ErrBad)
 	errs(t, Pattern, deep+"@^b a", api.ErrBad)
 	errs(t, Pattern, "("+deep+"^", api.ErrBad)

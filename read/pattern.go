@@ -2,11 +2,14 @@ package read
 
 import "almagest/api"
 
-// alone reads a pattern that is all of a text.
+// alone reads a pattern that is all of a text. It is whole just where nothing is behind it, as an item is behind its stop: what stands there is wrong ahead of the pattern's being too much.
 func (r *reader) alone() (api.Pattern, bool) {
 	from := r.place()
 	p, ok := r.pattern()
-	return p, ok && r.measure(p, from)
+	if !ok || !r.sees(end) {
+		return p, ok
+	}
+	return p, r.measure(p, from)
 }
 
 func (r *reader) pattern() (api.Pattern, bool) {
