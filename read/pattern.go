@@ -40,7 +40,8 @@ func (r *reader) pair() (api.Pattern, bool) {
 		return p, false
 	}
 	p = api.Pattern{Kind: api.PatRel, Rel: api.RelBefore + rel.above(before), L: []api.Pattern{p}}
-	return p, put(&p.R, r.row)
+	ok = put(&p.R, r.row)
+	return p, ok
 }
 
 func (r *reader) row() (api.Pattern, bool) {
@@ -77,7 +78,7 @@ func (r *reader) bracket() (api.Pattern, bool) {
 	return p, ok && r.leave()
 }
 
-// put makes a list of one of its own: no two parts share memory.
+// put makes a list of one of its own: no two parts share memory. It stands in no statement that reads what l is part of: Go leaves open which of the two is first.
 func put(l *[]api.Pattern, part func() (api.Pattern, bool)) bool {
 	p, ok := part()
 	*l = []api.Pattern{p}

@@ -155,6 +155,25 @@ func TestPatterns(t *testing.T) {
 	}
 }
 
+// P5.1: @ has both its parts, whatever stands on its sides and wherever it stands itself: no answer is handed back ahead of its second part.
+func TestBothParts(t *testing.T) {
+	tells(t, Pattern, "a @met b", rel(p("a"), api.RelMet, p("b")))
+	met := func(l, r api.Pattern) api.Pattern { return rel(l, api.RelMet, r) }
+	sides := []api.Pattern{p("a"), of(named("f", aVar("X"), num(-1))), seq(p("a"), p("b")), not(p("a"), p("b"), p("c"))}
+	texts := []string{"a", "f(X,-1)", "a ; b", `a ; \+(b) ; c`}
+	for i, l := range sides {
+		for j, r := range sides {
+			x, s := met(l, r), texts[i]+" @met "+texts[j]
+			tells(t, Pattern, s, x)
+			tells(t, Pattern, "("+s+") @met ("+s+")", met(x, x))
+			tells(t, Pattern, s+" & "+s, and(x, x))
+			tells(t, Pattern, s+" | "+s, or(x, x))
+			tells(t, Pattern, `d ; \+(`+s+") ; e", not(p("d"), x, p("e")))
+		}
+	}
+	tells(t, Program, "a <- b @met c, within 1.", rules(api.Rule{Head: named("a"), Body: met(p("b"), p("c")), Within: 1}))
+}
+
 // P5.1: brackets around a part, as many as one likes, are no part of it.
 func TestBrackets(t *testing.T) {
 	tells(t, Pattern, "(a)", p("a"))
